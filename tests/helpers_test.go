@@ -147,3 +147,163 @@ func withSpare(list []int64) ([]int64, func() bool) {
 	before := slices.Clone(whole)
 	return whole[:len(list)], func() bool { return slices.Equal(whole, before) }
 }
+
+// noNetworks are values of the type Network that are no networks.
+var noNetworks = []impl.Network{
+	{},
+	{Points: 1},
+	{Points: 0, Contacts: [][]int64{{0, 1, 0, 0}}},
+	{Points: 1, Contacts: [][]int64{{0, 1, 0, 0}}},
+	{Points: 9},
+	{Points: -2},
+	{Points: math.MinInt64},
+	{Points: math.MaxInt64},
+	{Points: math.MaxInt64, Contacts: [][]int64{{0, math.MaxInt64 - 1, 0, 0}}},
+	{Points: 3, Contacts: [][]int64{nil}},
+	{Points: 3, Contacts: [][]int64{{}}},
+	{Points: 3, Contacts: [][]int64{{0}}},
+	{Points: 3, Contacts: [][]int64{{0, 1, 0}}},
+	{Points: 3, Contacts: [][]int64{{0, 1, 0, 0, 0}}},
+	{Points: 3, Contacts: [][]int64{{0, 1, 0, 0}, {0, 1, 0}}},
+	{Points: 3, Contacts: [][]int64{{0, 1, 0, 0}, {0, 1, 0, 0, 0}}},
+	{Points: 3, Contacts: [][]int64{{1, 0, 0, 0}}},
+	{Points: 3, Contacts: [][]int64{{0, 0, 0, 0}}},
+	{Points: 3, Contacts: [][]int64{{2, 2, 0, 0}}},
+	{Points: 3, Contacts: [][]int64{{0, 3, 0, 0}}},
+	{Points: 3, Contacts: [][]int64{{2, 3, 0, 0}}},
+	{Points: 8, Contacts: [][]int64{{7, 8, 0, 0}}},
+	{Points: 3, Contacts: [][]int64{{-1, 1, 0, 0}}},
+	{Points: 3, Contacts: [][]int64{{-2, -1, 0, 0}}},
+	{Points: 3, Contacts: [][]int64{{math.MinInt64, math.MaxInt64, 0, 0}}},
+	{Points: 3, Contacts: [][]int64{{0, math.MaxInt64, 0, 0}}},
+	{Points: 3, Contacts: [][]int64{{math.MinInt64, 1, 0, 0}}},
+	{Points: 3, Contacts: [][]int64{{0, 1, 5, 0}}},
+	{Points: 3, Contacts: [][]int64{{0, 1, -1, 0}}},
+	{Points: 3, Contacts: [][]int64{{0, 1, math.MaxInt64, 0}}},
+	{Points: 3, Contacts: [][]int64{{0, 1, math.MinInt64, 0}}},
+	{Points: 3, Contacts: [][]int64{{0, 1, 0, 2}}},
+	{Points: 3, Contacts: [][]int64{{0, 1, 0, -1}}},
+	{Points: 3, Contacts: [][]int64{{0, 1, 0, math.MaxInt64}}},
+	{Points: 3, Contacts: [][]int64{{0, 1, 0, math.MinInt64}}},
+	{Points: 3, Contacts: [][]int64{{0, 2, 0, 0}, {0, 1, 0, 0}}},
+	{Points: 3, Contacts: [][]int64{{1, 2, 0, 0}, {0, 2, 0, 0}}},
+	{Points: 3, Contacts: [][]int64{{0, 1, 1, 0}, {0, 1, 0, 1}}},
+	{Points: 3, Contacts: [][]int64{{0, 1, 0, 1}, {0, 1, 0, 0}}},
+	{Points: 3, Contacts: [][]int64{{0, 1, 0, 0}, {1, 2, 0, 0}, {0, 2, 0, 0}}},
+	{Points: 2, Contacts: slices.Repeat([][]int64{{0, 1, 0, 0}}, 13)},
+	{Points: 2, Contacts: slices.Repeat([][]int64{{0, 1, 0, 0}}, 1000)},
+}
+
+// sampleNetworks returns networks of all numbers of points and of contacts from a fixed sequence,
+// with equal contacts and idle ones among them, and ends that nothing joins.
+func sampleNetworks() []impl.Network {
+	var list []impl.Network
+	source := rand.New(rand.NewSource(2))
+	for points := int64(2); points <= 8; points++ {
+		for count := range 13 {
+			for inputs := int64(1); inputs <= 5; inputs += 2 {
+				list = append(list, networkFrom(source, points, count, inputs))
+			}
+		}
+	}
+	return list
+}
+
+// networkFrom returns a network with so many points, contacts and inputs from a sequence. Now and
+// then a contact equals the one before it.
+func networkFrom(source *rand.Rand, points int64, count int, inputs int64) impl.Network {
+	x := impl.Network{Points: points}
+	for len(x.Contacts) < count {
+		p, q := source.Int63n(points), source.Int63n(points)
+		if p == q {
+			continue
+		}
+		c := []int64{min(p, q), max(p, q), source.Int63n(inputs), source.Int63n(2)}
+		x.Contacts = append(x.Contacts, c)
+		if len(x.Contacts) < count && source.Intn(6) == 0 {
+			x.Contacts = append(x.Contacts, slices.Clone(c))
+		}
+	}
+	slices.SortFunc(x.Contacts, slices.Compare)
+	return x
+}
+
+// sameNetwork reports whether two networks are equal.
+func sameNetwork(x impl.Network, y impl.Network) bool {
+	return x.Points == y.Points && sameLists(x.Contacts, y.Contacts)
+}
+
+// sameLists reports whether two lists of lists are equal.
+func sameLists(a [][]int64, b [][]int64) bool {
+	return slices.EqualFunc(a, b, slices.Equal)
+}
+
+// copyOfLists returns a list of lists with new memory.
+func copyOfLists(lists [][]int64) [][]int64 {
+	var copied [][]int64
+	for _, list := range lists {
+		copied = append(copied, slices.Clone(list))
+	}
+	return copied
+}
+
+// spareLists returns the same lists with spare capacity behind each of them and behind their list,
+// and a function that reports whether all of it is as it was.
+func spareLists(lists [][]int64) ([][]int64, func() bool) {
+	behind := []int64{88}
+	whole := [][]int64{}
+	var checks []func() bool
+	for _, list := range lists {
+		spare, unchanged := withSpare(list)
+		whole = append(whole, spare)
+		checks = append(checks, unchanged)
+	}
+	whole = append(whole, behind, behind)
+	given := whole[:len(lists)]
+	want := slices.Clone(whole)
+	return given, func() bool {
+		for i, list := range want {
+			if len(list) != len(whole[i]) || len(list) > 0 && &list[0] != &whole[i][0] {
+				return false
+			}
+		}
+		for _, unchanged := range checks {
+			if !unchanged() {
+				return false
+			}
+		}
+		return behind[0] == 88
+	}
+}
+
+// scribble writes on a list and on the spare capacity behind it.
+func scribble(list []int64) {
+	list = list[:cap(list)]
+	for i := range list {
+		list[i] = -99
+	}
+}
+
+// wantLists fails unless a list of lists and a code are as wanted.
+func wantLists(t *testing.T, call string, got [][]int64, code int64, want [][]int64) {
+	t.Helper()
+	if !sameLists(got, want) || code != impl.ErrNone {
+		t.Errorf("%s = %v, %d, want %v, 0", call, got, code, want)
+	}
+}
+
+// wantNetwork fails unless a network and a code are as wanted.
+func wantNetwork(t *testing.T, call string, got impl.Network, code int64, want impl.Network) {
+	t.Helper()
+	if !sameNetwork(got, want) || code != impl.ErrNone {
+		t.Errorf("%s = %v, %d, want %v, 0", call, got, code, want)
+	}
+}
+
+// wantNetworkError fails unless the code is as wanted and the network beside it the zero value.
+func wantNetworkError(t *testing.T, call string, got impl.Network, code int64, want int64) {
+	t.Helper()
+	if !sameNetwork(got, impl.Network{}) || code != want {
+		t.Errorf("%s = %v, %d, want the zero value, %d", call, got, code, want)
+	}
+}
